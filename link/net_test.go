@@ -68,29 +68,77 @@ func (s *side) hand(t *testing.T, other *side, frame []byte) api.Errno {
 	return e
 }
 
-// play plays one step of two links over a net that keeps all frames and hands them over as it likes.
-func play(t *testing.T, d *dice, sides [2]*side, sessions *[2]uint32, loss int) {
+// story: how a net and the clients of two links behave.
+type story struct {
+	sides    [2]*side
+	last     [2]uint32 // the greatest session of each
+	firsts   []uint32  // the first numbers that sessions are given
+	loss     int       // of a hundred frames
+	weights  [6]int    // of what happens in a step
+	together int       // their sum
+}
+
+// What happens in a step of a story.
+const (
+	sending = iota
+	ticking
+	closing
+	babbling // bytes that are no frame
+	doubling // a frame of any time is handed over
+	flowing  // all that was laid since is handed over, but what is lost
+)
+
+func newStory(d *dice, sides [2]*side, weights [6]int) *story {
+	s := &story{sides: sides, firsts: []uint32{0, 1<<32 - 1, 1<<32 - 5, 1<<31 - 2, 77}, loss: pick(d, 0, 10, 50, 90), weights: weights}
+	if d.below(2) == 0 {
+		s.firsts = s.firsts[:1]
+	}
+	for _, w := range weights {
+		s.together += w
+	}
+	return s
+}
+
+func (s *story) drawn(d *dice) int {
+	n := d.below(s.together)
+	for what, w := range s.weights {
+		if n < w {
+			return what
+		}
+		n -= w
+	}
+	return flowing
+}
+
+// step plays one step of two links over a net that keeps all frames and hands them over as it likes.
+func (s *story) step(t *testing.T, d *dice) {
 	t.Helper()
 	i := d.below(2)
-	s, other := sides[i], sides[1-i]
-	switch n := d.below(100); {
-	case s.State() == api.LinkClosed || s.State() == api.LinkDead:
-		sessions[i] += uint32(1 + d.below(2))
-		s.begin(t, sessions[i], pick[uint32](d, 0, 1<<32-1, 1<<32-5, 1<<31-2, 77))
-	case n < 30:
-		s.send([]byte{byte(i), byte(s.mine), byte(len(s.accepted[s.mine])), byte(len(s.accepted[s.mine]) >> 8)})
-	case n < 40:
-		s.Tick()
-	case n < 41 && d.below(5) == 0:
-		s.Close()
-	case n < 42:
-		s.hand(t, other, []byte("RF are the first bytes of a frame"))
-	case n < 60 && len(other.laid) > 0:
-		s.hand(t, other, pick(d, other.laid...))
-	default:
+	one, other := s.sides[i], s.sides[1-i]
+	if one.State() == api.LinkClosed || one.State() == api.LinkDead {
+		s.last[i] += uint32(1 + d.below(2))
+		one.begin(t, s.last[i], pick(d, s.firsts...))
+		return
+	}
+	switch s.drawn(d) {
+	case sending:
+		count := len(one.accepted[one.mine])
+		one.send([]byte{byte(i), byte(one.mine), byte(count), byte(count >> 8)})
+	case ticking:
+		one.Tick()
+	case closing:
+		one.Close()
+	case babbling:
+		one.hand(t, other, []byte("RF are the first bytes of a frame"))
+	case doubling:
+		other.collect()
+		if len(other.laid) > 0 {
+			one.hand(t, other, pick(d, other.laid...))
+		}
+	case flowing:
 		for _, f := range other.collect() {
-			if d.below(100) >= loss {
-				s.hand(t, other, bytes.Clone(f))
+			if d.below(100) >= s.loss {
+				one.hand(t, other, bytes.Clone(f))
 			}
 		}
 	}
@@ -100,22 +148,51 @@ func play(t *testing.T, d *dice, sides [2]*side, sessions *[2]uint32, loss int) 
 func TestInOrderOnce(t *testing.T) {
 	d := dice(14)
 	given, sessions := 0, 0
-	for range 60 {
+	for range 4000 {
 		var sides [2]*side
 		for i := range sides {
 			resend := 1 + d.below(3)
-			sides[i] = newSide(t, pick(&d, 1, 2, 3, 8, 64), d.below(4), resend, resend+1+d.below(20))
+			sides[i] = newSide(t, pick(&d, 1, 2, 3, 8, 64), d.below(4), resend, resend+1+d.below(10))
 		}
-		var last [2]uint32
-		loss := pick(&d, 0, 10, 50, 90)
-		for range 3000 {
-			play(t, &d, sides, &last, loss)
+		s := newStory(&d, sides, [6]int{d.below(40), d.below(20), d.below(10), 1, 1 + d.below(80), d.below(40)})
+		for range 50 + d.below(150) {
+			s.step(t, &d)
 		}
 		given += sides[0].all + sides[1].all
 		sessions += len(sides[0].accepted) + len(sides[1].accepted)
 	}
-	if given < 10000 || sessions < 500 {
+	if given < 10000 || sessions < 5000 {
 		t.Fatalf("only %d payloads were given, in %d sessions: this says little", given, sessions)
+	}
+}
+
+// P814: a peer that was left while this side was opening is not listened to, though it named this very session.
+func TestLeftPeer(t *testing.T) {
+	a, b := newSide(t, 4, 4, 2, 5), newSide(t, 4, 4, 2, 5)
+	b.begin(t, 7, 50)
+	a.begin(t, 1, 10)
+	a.hand(t, b, b.collect()[0])
+	b.hand(t, a, a.collect()[0])
+	a.hand(t, b, b.collect()[0])
+	a.send([]byte("of the first session"))
+	held := a.collect()
+	a.Close()
+	a.begin(t, 2, 10)
+	a.send([]byte("of the second"))
+	if e := b.hand(t, a, a.collect()[1]); e != api.OK || b.Peer() != 2 || b.State() != api.LinkOpening {
+		t.Fatalf("P808: %v, peer %d, state %d", e, b.Peer(), b.State())
+	}
+	for _, f := range held {
+		if e := b.hand(t, a, f); e != api.ErrOther {
+			t.Fatalf("P809: a frame of the session that was left: %v", e)
+		}
+	}
+	a.hand(t, b, b.collect()[0])
+	for _, f := range a.collect() {
+		b.hand(t, a, f)
+	}
+	if !b.whole(a) || len(b.given) != 1 {
+		t.Fatalf("P814: %q was given", b.given)
 	}
 }
 
@@ -129,10 +206,10 @@ func met(t *testing.T, d *dice) ([2]*side, bool) {
 		sides[i] = newSide(t, pick(d, 1, 2, 3, 8, 64), pick(d, 0, 3, 40), resend[i], dead)
 		sides[i].begin(t, uint32(3+i), pick[uint32](d, 0, 1<<32-2, 1<<31-1))
 	}
-	last := [2]uint32{3, 4}
-	loss := pick(d, 0, 20, 60)
+	s := newStory(d, sides, [6]int{30, 10, 0, 1, 18, 40})
+	s.last = [2]uint32{3, 4}
 	for range 20 + d.below(200) {
-		play(t, d, sides, &last, loss)
+		s.step(t, d)
 	}
 	a, b := sides[0], sides[1]
 	joined := a.State() == api.LinkOpen && b.State() == api.LinkOpen && a.Peer() == b.mine && b.Peer() == a.mine
