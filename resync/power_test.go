@@ -26,6 +26,15 @@ func receive(p api.Packet) func(v *side) (api.Out, api.Errno) {
 	return func(v *side) (api.Out, api.Errno) { return v.e.Receive(p) }
 }
 
+// tick: a Tick tells no error; whether the power went the disk tells.
+func tick(v *side) (api.Out, api.Errno) {
+	out := v.e.Tick()
+	if !v.d.On() {
+		return out, api.ErrPower
+	}
+	return out, api.OK
+}
+
 // targetAfter: a target all of whose blocks are asked for, and the first of them, up to that number, found the same.
 func targetAfter(t *testing.T, n int) *side {
 	t.Helper()
@@ -83,6 +92,14 @@ func targetCuts() []cut {
 				return v
 			},
 			call: receive(refuses(18, 17, 4)), counts: always(api.Progress{Same: 17})},
+		{name: "Tick, the last", steps: 2,
+			make: func(t *testing.T) *side {
+				v := targetAfter(t, 17)
+				v.takes("P1607", refuses(18, 17, 4), nil)
+				v.s.Clean(17)
+				return v
+			},
+			call: tick, counts: always(api.Progress{Same: 17})},
 		{name: "Start", steps: 1, make: func(t *testing.T) *side { return newSide(t, wide, false) },
 			call: func(v *side) (api.Out, api.Errno) { return v.e.Start(api.ModeTarget) }, counts: always(api.Progress{})},
 	}
@@ -151,13 +168,7 @@ func verifyCuts() []cut {
 				v.start(api.ModeVerifySource)
 				return v
 			},
-			call: func(v *side) (api.Out, api.Errno) {
-				out := v.e.Tick()
-				if !v.d.On() {
-					return out, api.ErrPower
-				}
-				return out, api.OK
-			},
+			call: tick,
 			counts: func(through int) api.Progress { return api.Progress{Found: through} }},
 	}
 }
