@@ -168,7 +168,7 @@ func verifyCuts() []cut {
 				v.start(api.ModeVerifySource)
 				return v
 			},
-			call: tick,
+			call:   tick,
 			counts: func(through int) api.Progress { return api.Progress{Found: through} }},
 	}
 }
