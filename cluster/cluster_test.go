@@ -121,7 +121,7 @@ func TestLines(t *testing.T) {
 // TestIds: the clients' operations are numbered over both nodes, refused ones too; no other event has a number.
 func TestIds(t *testing.T) {
 	c := newCluster(t, small)
-	tells(t, c, []string{"flush a", "promote a", "read a 0", "write b 0 11", "zero a 99", "tick a", "zero a 1", "crash b -", "read b 0", "writ a 0 00"[:0], "flush a", "write a 0 1122 5", "write a 0 1122"},
+	tells(t, c, []string{"flush a", "promote a", "read a 0", "write b 0 11", "zero a 99", "tick a", "zero a 1", "crash b -", "read b 0", "# read a 0", "flush a", "write a 0 1122 5", "write a 0 1122"},
 		"a flush refused 171", "a 2 read 00", "b write refused 171", "a zero refused 2", "a 5 ok", "b read refused 174", "a 7 ok", "a write refused 3", "a 9 ok")
 	c.ops = 1<<31 - 2
 	tells(t, c, []string{"read a 1", "read a 1", "read a 1"}, "a 2147483647 read 00", "a read refused 1", "a read refused 1")
@@ -201,6 +201,8 @@ func TestRefusals(t *testing.T) {
 		{[]string{"crash b -", "wipe b", "up b"}, "promote b", "b promote refused 172"},
 		{joined(), "promote b", "b promote refused 173"},
 		{nil, "demote a", "a demote refused 5"},
+		{append(joined(), "write a 0 11"), "demote a", "a demote refused 5"},
+		{append(joined(), "write a 0 11", "run 2"), "demote a", "a demote refused 5"}, // it is answered, and in the log
 		{nil, "verify a", "a verify refused 171"},
 		{[]string{"promote a"}, "verify a", "a verify refused 5"},
 		{[]string{"promote a"}, "invalidate a", "a invalidate refused 171"},
@@ -319,6 +321,18 @@ func TestCovered(t *testing.T) {
 	covered()
 	play(t, c, fmt.Sprint("spoil a ", len(image)/128-1), fmt.Sprint("spoil a ", len(image)/128-2))
 	covered(0, 1, 2)
+
+	for blocks := 1; blocks <= 13; blocks++ { // no superblock can be read: every extent
+		c = newCluster(t, fmt.Sprintf("resource r0 { device { blocks %d; block-size 128; } }", blocks))
+		play(t, c, "crash a -")
+		total := len(c.sides[0].disk.Image()) / 128
+		play(t, c, fmt.Sprint("spoil a ", total-1), fmt.Sprint("spoil a ", total-2))
+		var want []int
+		for b := 0; b < blocks; b += 4 {
+			want = append(want, b/4)
+		}
+		covered(want...)
+	}
 }
 
 // TestNet: a frame's way, and what the net's events do.

@@ -18,6 +18,7 @@ type sent struct {
 type session struct {
 	base   []string        // its blocks as the two were joined, or as it became primary since
 	writes map[uint32]sent // by their payloads' numbers
+	ships  map[uint32]int  // the SyncData among its payloads
 }
 
 // epochs watches the frames: what each node has sent to the other, and in which epochs.
@@ -39,7 +40,7 @@ func (p *epochs) reset() {
 
 func (p *epochs) session(i int, number uint32) *session {
 	if p.sessions[i][number] == nil {
-		p.sessions[i][number] = &session{writes: map[uint32]sent{}}
+		p.sessions[i][number] = &session{writes: map[uint32]sent{}, ships: map[uint32]int{}}
 	}
 	return p.sessions[i][number]
 }
@@ -116,8 +117,11 @@ func (p *epochs) put(i int, frame []byte) {
 		p.session(i, f.From).writes[f.Seq] = sent{int(packet.Block), int(packet.Epoch), briefly(packet.Data)}
 	case api.CmdZero:
 		p.session(i, f.From).writes[f.Seq] = sent{int(packet.Block), int(packet.Epoch), "00"}
-	case api.CmdSyncData:
-		p.shipped[int(packet.Block)] = 1
+	case api.CmdSyncData: // the link may lay it on the net more than once
+		if s := p.session(i, f.From); s.ships[f.Seq] == 0 {
+			s.ships[f.Seq] = 1
+			p.shipped[int(packet.Block)] = 1
+		}
 	}
 }
 
@@ -131,7 +135,9 @@ func (p *epochs) isBackup(i int) bool {
 func (p *epochs) lostPower(i int, now []string) {
 	y := p.story
 	y.t.Helper()
-	if p.isBackup(i) {
+	flags := openCopy(y.t, y.c.sides[i].disk).Super().Flags
+	stayed := flags&(api.FlagConsistent|api.FlagOutdated) == api.FlagConsistent // one frame may bring much, and the power goes behind it
+	if p.isBackup(i) && stayed {
 		p.look(i, now)
 	}
 	p.peer[i] = 0

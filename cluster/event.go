@@ -65,7 +65,7 @@ func (ev *event) readWords(h handler, words []string) bool {
 }
 
 func (ev *event) readWord(kind, word string) bool {
-	ok := false
+	var ok bool
 	switch kind {
 	case "NODE":
 		ev.node = strings.Index(nodeNames, word)

@@ -72,12 +72,12 @@ func (c *Cluster) copy(ev event) []string {
 	return nil
 }
 
-func (c *Cluster) part(event) []string {
+func (c *Cluster) part(ev event) []string {
 	c.parted = true
 	return nil
 }
 
-func (c *Cluster) heal(event) []string {
+func (c *Cluster) heal(ev event) []string {
 	c.parted = false
 	return nil
 }

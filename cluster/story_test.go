@@ -33,6 +33,7 @@ type ask struct {
 type story struct {
 	t       *testing.T
 	c       *Cluster
+	seed    int
 	dice    dice
 	free    bool     // nodes are promoted wherever they take it; else as P3 says
 	lines   []string // that were played
@@ -66,7 +67,7 @@ type moment struct {
 
 func newStory(t *testing.T, resource string, seed int, free bool, seen map[string]int) *story {
 	y := &story{
-		t: t, c: newCluster(t, resource), dice: dice(seed), free: free, busy: 2, asks: map[int]ask{}, last: -1,
+		t: t, c: newCluster(t, resource), seed: seed, dice: dice(seed), free: free, busy: 2, asks: map[int]ask{}, last: -1,
 		given: [2]map[string]int{{}, {}}, refused: map[string]int{}, since: map[int]int{}, seen: seen,
 	}
 	for range 3 {
@@ -89,7 +90,7 @@ func (y *story) fatal(text string, args ...any) {
 	for i := range 2 {
 		y.t.Log(play(y.t, y.c, "status "+nodeName(i), "gens "+nodeName(i), "why "+nodeName(i), "covered "+nodeName(i)))
 	}
-	y.t.Fatalf(text, args...)
+	y.t.Fatalf("seed %d: %s", y.seed, fmt.Sprintf(text, args...))
 }
 
 func (y *story) isUp(i int) bool { return y.c.sides[i].node != nil }
@@ -325,23 +326,23 @@ func (y *story) wrong() {
 	fill := fmt.Sprintf("ee%06x", y.dice.below(1<<20)*2+1)
 	y.refused[fill] = 1
 	b, more := y.dice.below(len(y.blocks)), ""
-	want := []int{int(api.ErrOff)}
-	switch role := y.isPrimary(i); {
-	case y.isUp(i) && !role:
-		want[0] = int(api.ErrRole)
+	want := api.ErrOff
+	switch {
+	case y.isUp(i) && !y.isPrimary(i):
+		want = api.ErrRole
 	case y.isUp(i) && y.dice.below(2) == 0:
 		b += len(y.blocks)
-		want[0] = int(api.ErrRange)
+		want = api.ErrRange
 	case y.isUp(i):
 		more = fmt.Sprint(" ", y.dice.one(0, y.c.config.Size-1, y.c.config.Size+1, 4096))
-		want[0] = int(api.ErrSize)
+		want = api.ErrSize
 	}
 	told := y.do("write %s %d %s%s", nodeName(i), b, fill, more)
 	y.ids++
-	if wasRefused(told) != want[0] {
-		y.fatal("P10: %q, want %v", told, want)
+	if wasRefused(told) != int(want) {
+		y.fatal("P10: %q, want %d", told, want)
 	}
-	y.seen[fmt.Sprint("refused ", want[0])]++
+	y.seen[fmt.Sprint("refused ", int(want))]++
 }
 
 // mayPromote: P3's premise.
@@ -567,34 +568,9 @@ func (y *story) look() {
 
 func (y *story) lookCovered() {
 	y.t.Helper()
-	differ := y.differing()
-	if len(differ) == 0 {
-		return
+	if list := uncovered(y.t, y.c); len(list) > 0 {
+		y.fatal("P4: blocks %v differ and are not covered", list)
 	}
-	a, _ := y.c.Covered(0)
-	b, _ := y.c.Covered(1)
-	for _, block := range differ {
-		if extent := block / 4; !slices.Contains(a, extent) && !slices.Contains(b, extent) {
-			y.fatal("P4: block %d differs and is not covered", block)
-		}
-	}
-}
-
-// differing tells the blocks whose durable bytes differ.
-func (y *story) differing() []int {
-	y.t.Helper()
-	a, b := durable(y.t, y.c, 0), durable(y.t, y.c, 1)
-	if bytes.Equal(a, b) {
-		return nil
-	}
-	var list []int
-	size := y.c.config.Size
-	for k := range y.blocks {
-		if !bytes.Equal(a[k*size:(k+1)*size], b[k*size:(k+1)*size]) {
-			list = append(list, k)
-		}
-	}
-	return list
 }
 
 // lookApart: two that were primary apart are never joined again, and greet each other to no avail. (One alone may come to the end of a greeting from which the other has gone.)
@@ -674,7 +650,7 @@ func (y *story) become() {
 			y.do("connect %s", nodeName(i))
 		}
 	}
-	for _, b := range y.differing() {
+	for _, b := range differing(y.t, y.c) {
 		y.since[b] = 1
 	}
 	allowed := map[int]int{}

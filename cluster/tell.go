@@ -59,12 +59,11 @@ func shortest(block []byte) []byte {
 }
 
 func spelt(list []byte) string {
-	var text strings.Builder
+	var digits []byte
 	for _, b := range list {
-		text.WriteByte(hexDigits[b>>4])
-		text.WriteByte(hexDigits[b&15])
+		digits = append(digits, hexDigits[b>>4], hexDigits[b&15])
 	}
-	return text.String()
+	return string(digits)
 }
 
 // tellOf tells what a node says, if it is up.

@@ -1,6 +1,7 @@
 package cluster
 
 import (
+	"bytes"
 	"encoding/hex"
 	"fmt"
 	"slices"
@@ -187,4 +188,32 @@ func storedMarks(t testing.TB, c *Cluster, i int) []int {
 		}
 	}
 	return list
+}
+
+// differing tells the blocks whose durable bytes differ.
+func differing(t testing.TB, c *Cluster) []int {
+	t.Helper()
+	a, b, size := durable(t, c, 0), durable(t, c, 1), c.config.Size
+	if bytes.Equal(a, b) {
+		return nil
+	}
+	var list []int
+	for k := range c.config.Blocks {
+		if !bytes.Equal(a[k*size:(k+1)*size], b[k*size:(k+1)*size]) {
+			list = append(list, k)
+		}
+	}
+	return list
+}
+
+// uncovered tells those of them that P4 does not allow.
+func uncovered(t testing.TB, c *Cluster) []int {
+	t.Helper()
+	list := differing(t, c)
+	if len(list) == 0 {
+		return nil
+	}
+	a, _ := c.Covered(0)
+	b, _ := c.Covered(1)
+	return slices.DeleteFunc(list, func(k int) bool { return slices.Contains(a, k/4) || slices.Contains(b, k/4) })
 }

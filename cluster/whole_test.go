@@ -86,11 +86,8 @@ func TestCrashedPrimary(t *testing.T) {
 				for len(c.sides[1-p].queue) > 0 {
 					play(t, c, "drop "+other+" 0")
 				}
-				if a, b := differing(t, c), len(play(t, c, "covered "+other)[0]); len(a) > 0 {
-					list, _ := c.Covered(p)
-					if !slices.Contains(list, 1) && b == len("a covered") {
-						t.Errorf("P4: block 5 differs and is not covered: %v", list)
-					}
+				if list := uncovered(t, c); len(list) > 0 {
+					t.Errorf("P4: %q, picks %s: blocks %v differ and are not covered", x.lines, x.picks, list)
 				}
 				play(t, c, "up "+name, "connect "+name, "run 100")
 				if !inSync(c) || len(differing(t, c)) > 0 {
@@ -208,7 +205,7 @@ func TestSplitBrain(t *testing.T) {
 func TestTwoPrimaries(t *testing.T) {
 	c := newCluster(t, small)
 	play(t, c, "connect a", "connect b", "run 20")
-	tells(t, c, []string{"promote a", "promote b", "write a 1 0a", "run 30", "why a", "why b", "data a", "data b"}[:6], "a 1 ok", "a why 156", "b why 156")
+	tells(t, c, []string{"promote a", "promote b", "write a 1 0a", "run 30", "why a", "why b"}, "a 1 ok", "a why 156", "b why 156")
 	if got := blocksOf(durable(t, c, 1), 128); !slices.Equal(got, strings.Fields("00 00 00 00 00 00 00 00")) {
 		t.Errorf("P9: the other primary has %v", got)
 	}
@@ -243,7 +240,7 @@ func TestPrimaryTarget(t *testing.T) {
 func TestRefusedIsNowhere(t *testing.T) {
 	c := newJoined(t, with("C", "net { max-queue 2; }"))
 	tells(t, c, []string{"write a 0 01", "write a 1 02", "write a 2 ee", "zero a 2", "read a 2", "flush a", "write a 8 ee", "write a 3 ee 127", "write b 4 ee", "crash b -", "write b 5 ee", "scribble a 6 ee"},
-		"a write refused 4", "a zero refused 4", "a read refused 4", "a flush refused 4", "a write refused 4"[:0]+"a write refused 2", "a write refused 3", "b write refused 171", "b write refused 174", "a scribble refused 5")
+		"a write refused 4", "a zero refused 4", "a read refused 4", "a flush refused 4", "a write refused 2", "a write refused 3", "b write refused 171", "b write refused 174", "a scribble refused 5")
 	tells(t, c, []string{"up b", "connect b", "run 100", "flush a", "run 10"}, "a 1 ok", "a 2 ok", "a 11 ok")
 	want := strings.Fields("01 02 00 00 00 00 00 00")
 	for i := range 2 {
@@ -299,19 +296,6 @@ func TestVerify(t *testing.T) {
 			t.Fatalf("P11: seed %d: the next handshake has not brought them over: %q", seed, play(t, c, "status a", "status b"))
 		}
 	}
-}
-
-// differing tells the blocks whose durable bytes differ.
-func differing(t *testing.T, c *Cluster) []int {
-	t.Helper()
-	var list []int
-	a, b := blocksOf(durable(t, c, 0), c.config.Size), blocksOf(durable(t, c, 1), c.config.Size)
-	for k := range a {
-		if a[k] != b[k] {
-			list = append(list, k)
-		}
-	}
-	return list
 }
 
 // found: both sides have marked just these blocks, and say so.
